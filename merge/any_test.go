@@ -53,6 +53,9 @@ func TestZ1Deep(t *testing.T) {
 	if n, layer, is := merge.Look(l, way); !is || layer != 1 || tell(n) != "fx" {
 		t.Errorf("Look: %d, %v", layer, is)
 	}
+	if nodes, from := merge.Along(l, way); len(nodes) != long+1 || from[long/4] != 0 || from[long/4+1] != 1 || tell(nodes[long]) != "fx" {
+		t.Errorf("Along: %d", len(nodes))
+	}
 	if n, layer, is := merge.Look(l, nil); !is || layer != 0 || len(n.Kids) != 1 {
 		t.Errorf("Look at '/': %d, %v", layer, is)
 	}

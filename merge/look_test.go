@@ -2,6 +2,7 @@ package merge_test
 
 import (
 	"slices"
+	"strings"
 	"testing"
 
 	"idshift/api"
@@ -157,6 +158,34 @@ func TestM2LookWhole(t *testing.T) {
 	}
 	if got, layer, is := merge.Look(l, nil); !is || layer != 0 || !same(got, l[0]) {
 		t.Errorf("%v, %d, %v", got, layer, is)
+	}
+}
+
+// What is seen at each beginning of names, without its Kids; a blank between them.
+func TestM2Along(t *testing.T) {
+	for _, x := range []struct {
+		name, layers, names string
+		want                string
+		from                []int
+	}{
+		{"no layers", "", "a", "", nil},
+		{"a White", "w|d(a=fx)", "a", "", nil},
+		{"no names", "dx(a=fy)|d", "", "dx", []int{0}},
+		{"an Opaque one", "Dx|d(a=fy)", "", "Dx", []int{0}},
+		{"the upper's", "dx(a=dy(b=fz))", "a b", "dx dy fz", []int{0, 0, 0}},
+		{"a lower's", "dx|d|d(a=Dy(b=fz))", "a b", "dx Dy fz", []int{0, 2, 2}},
+		{"of several", "dx(a=dy)|d(a=d(b=dp))|d(a=d(b=d(c=fq)))", "a b c", "dx dy dp fq", []int{0, 0, 1, 2}},
+		{"no further than something is seen", "dx(a=dy(b=w))|d(a=d(b=d(c=fq)))", "a b c", "dx dy", []int{0, 0}},
+		{"no further than a File", "dx(a=fy(b=fz))", "a b", "dx fy", []int{0, 0}},
+	} {
+		nodes, from := merge.Along(layers(x.layers), names(x.names))
+		var told []string
+		for _, n := range nodes {
+			told = append(told, tell(n))
+		}
+		if strings.Join(told, " ") != x.want || !slices.Equal(from, x.from) {
+			t.Errorf("%s: Along(%s; %s): %v, %v, not %s, %v", x.name, x.layers, x.names, told, from, x.want, x.from)
+		}
 	}
 }
 

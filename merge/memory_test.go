@@ -82,20 +82,24 @@ func places(n api.Node, seen map[any]int) {
 
 // answer: what a call answers.
 type answer struct {
-	node  api.Node
-	names []string
-	is    bool
-	layer int
+	node   api.Node
+	names  []string
+	is     bool
+	layer  int
+	layers []int
 }
 
 func (a answer) same(b answer) bool {
-	return same(a.node, b.node) && slices.Equal(a.names, b.names) && a.is == b.is && a.layer == b.layer
+	return same(a.node, b.node) && slices.Equal(a.names, b.names) && a.is == b.is && a.layer == b.layer && slices.Equal(a.layers, b.layers)
 }
 
 func (a answer) places(seen map[any]int) {
 	places(a.node, seen)
 	for i := range a.names[:cap(a.names)] {
 		seen[&a.names[:cap(a.names)][i]]++
+	}
+	for i := range a.layers[:cap(a.layers)] {
+		seen[&a.layers[:cap(a.layers)][i]]++
 	}
 }
 
@@ -109,6 +113,14 @@ func calls() []asked {
 	return []asked{
 		{"Look", func(l []api.Node, names []string) (a answer) {
 			a.node, a.layer, a.is = merge.Look(l, names)
+			return a
+		}},
+		{"Along", func(l []api.Node, names []string) (a answer) {
+			var nodes []api.Node
+			nodes, a.layers = merge.Along(l, names)
+			for _, n := range nodes {
+				a.node.Kids = append(a.node.Kids, kid("", n))
+			}
 			return a
 		}},
 		{"Below", func(l []api.Node, names []string) answer { return answer{is: merge.Below(l, names)} }},

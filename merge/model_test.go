@@ -112,6 +112,7 @@ func compare(t *testing.T, l []api.Node, ways []string) {
 		if there, _ := has(l[max(want, 0)], at); is && (layer != want || !same(n, there)) {
 			t.Fatalf("Look(%v; %s): %v, %d, not %v, %d", l, way, n, layer, there, want)
 		}
+		compareAlong(t, l, at)
 		if got := merge.List(l, at); !slices.Equal(got, listed(l, at)) {
 			t.Fatalf("List(%v; %s): %v, not %v", l, way, got, listed(l, at))
 		}
@@ -129,6 +130,26 @@ func compare(t *testing.T, l []api.Node, ways []string) {
 	})
 	if is != (first(l, nil) >= 0) || is && !same(got, flattened(l, nil)) || !is && !zero(got) {
 		t.Fatalf("Flat(%v): %v, %v", l, got, is)
+	}
+}
+
+// compareAlong: Along tells what Look does at each beginning.
+func compareAlong(t *testing.T, l []api.Node, at []string) {
+	t.Helper()
+	nodes, from := merge.Along(l, at)
+	long := 0
+	for ; long <= len(at); long++ {
+		n, layer, is := merge.Look(l, at[:long])
+		if !is {
+			break
+		}
+		n.Kids = nil
+		if long >= len(nodes) || long >= len(from) || !same(nodes[long], n) || from[long] != layer {
+			t.Fatalf("Along(%v; %v): %v, %v, at %d not %v, %d", l, at, nodes, from, long, n, layer)
+		}
+	}
+	if len(nodes) != long || len(from) != long {
+		t.Fatalf("Along(%v; %v): %d, %d, not %d", l, at, len(nodes), len(from), long)
 	}
 }
 

@@ -20,13 +20,27 @@ type place struct {
 	seen []spot
 }
 
+// steps along names: what is seen at each beginning of them, the shortest one first.
+func steps(l []api.Node, names []string) iter.Seq[[]spot] {
+	return func(yield func(seen []spot) bool) {
+		seen := shown(layers(l))
+		for _, name := range names {
+			if !yield(seen) {
+				return
+			}
+			seen = shown(kidsOf(seen, name))
+		}
+		yield(seen)
+	}
+}
+
 // walk along names: what is seen at their end.
 func walk(l []api.Node, names []string) []spot {
-	seen := shown(layers(l))
-	for _, name := range names {
-		seen = shown(kidsOf(seen, name))
+	var end []spot
+	for seen := range steps(l, names) {
+		end = seen
 	}
-	return seen
+	return end
 }
 
 // shown of nodes, one above the other: a File alone, or the Dirs with which they begin. No more of them are asked for than may be shown.
