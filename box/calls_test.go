@@ -326,6 +326,11 @@ func TestB4OwnOfOnesOwn(t *testing.T) {
 		upper => d:1.2(a=f:1.3 b=f:1.1 d=d:1.3)
 	`)
 	play(t, start(t, who(1, 1, 0, 9), 9, lower), "own /a -1 9 => unmapped")
+	play(t, start(t, who(4, 6, 0), 9, "d(a=f:4.5 b=f:6.6)"), `
+		own /a -1 6 => ok
+		own /b -1 6 => perm
+		own /b 6 6 => perm
+	`)
 	// One's own in part is not one's own.
 	play(t, start(t, who(1, 1, 0), 9, "d(u=f:15.1 v=f:1.8)"), `
 		own /v -1 1 => perm

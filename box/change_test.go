@@ -319,7 +319,7 @@ func TestB6QuotaLess(t *testing.T) {
 }
 
 func TestB7Taken(t *testing.T) {
-	lower := "d(w=d777(a=f:2.2 b=d:2.2) r=d555:1.1(a=f:1.1) s=d1777(a=f:2.2 b=f:1.2 c=d:2.2 d=f:1.90) m=d1777:1.1(a=f:2.2 u=f:90.90) u=d1777:90.1(a=f:1.1 b=f:2.2) v=d1770(a=f:1.1))"
+	lower := "d(w=d777(a=f:2.2 b=d:2.2) r=d555:1.1(a=f:1.1) s=d1777(a=f:2.2 b=f:1.2 c=d:2.2 d=f:1.90) m=d1777:1.1(a=f:2.2 u=f:90.90) u=d1777:90.1(a=f:1.1 b=f:2.2) v=d1770(a=f:1.1) y=d1555(a=f:2.2))"
 	for caps, all := range map[int]string{
 		0: `
 			remove /w/a => ok
@@ -334,6 +334,8 @@ func TestB7Taken(t *testing.T) {
 			remove /u/a => unmapped
 			remove /u/b => perm
 			remove /v/a => access
+			remove /y/a => access
+			move /y/a /y/a => access
 			move /w /x => cross
 			move /s/a /x => perm
 			move /r/a /x => access

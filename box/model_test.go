@@ -2,13 +2,11 @@ package box_test
 
 import (
 	"fmt"
-	"slices"
 	"strings"
 	"testing"
 
 	"idshift/api"
 	"idshift/box"
-	"idshift/merge"
 	"idshift/tree"
 )
 
@@ -119,54 +117,88 @@ func agree(t *testing.T, b *box.Box, w *world, c api.Call) error {
 	return err
 }
 
-// Drawn boxes and calls; what is to be seen of them is counted, so that all of it is.
-func TestB4AsOneTree(t *testing.T) {
-	d := die(10)
-	count := map[string]int{}
-	for range 1200 {
-		c, lowers := drawnConfig(&d), drawnLowers(&d)
+// drawnBoxes: so many of them, with so many calls each.
+func drawnBoxes(t *testing.T, seed die, boxes, calls int, config func(d *die) api.Config, f func(d *die, c api.Config, lowers []api.Node, b *box.Box) func()) {
+	t.Helper()
+	d := seed
+	for range boxes {
+		c, lowers := config(&d), drawnLowers(&d)
 		b, err := box.New(c, lowers)
 		if err != nil {
 			t.Fatal(err)
 		}
-		w := newWorld(c, lowers)
-		for range 60 {
-			x := drawnCall(&d, b)
-			roomy := twin(t, c, lowers, b)
-			err := agree(t, b, w, x)
-			count[fmt.Sprint(x.Op, " ", err)]++
-			again := roomy.Bytes()
-			_, free := roomy.Do(x)
-			if more := (tree.Size(roomy.Upper()) + 63) / 64; (err == api.ErrQuota) != (free == api.ErrQuota || free == nil && roomy.Bytes() != again && more > c.Quota) {
-				t.Fatalf("%+v: %v, but with more quota %v, %d", x, err, free, more)
-			}
-			kept(t, scene{b, lowers}, fmt.Sprintf("%+v", x))
-		}
-	}
-	for op, l := range possible() {
-		for _, e := range append(l, nil) {
-			if k := fmt.Sprint(op, " ", e); count[k] < 3 {
-				t.Errorf("Op and error %s: seen %d times", k, count[k])
-			}
-		}
-	}
-	for k, n := range count {
-		var op, e int
-		if _, err := fmt.Sscanf(k, "%d idshift: error %d", &op, &e); err == nil && !slices.Contains(possible()[op], error(api.Errno(e))) && op >= 1 && op <= 14 {
-			t.Errorf("Op and error %s: seen %d times", k, n)
+		call := f(&d, c, lowers, b)
+		for range calls {
+			call()
 		}
 	}
 }
 
-// twin of a box, with as much quota as may be (W3).
-func twin(t *testing.T, c api.Config, lowers []api.Node, b *box.Box) *box.Box {
-	t.Helper()
-	c.Quota = api.MaxQuota
-	x, err := box.Load(c, lowers, b.Bytes())
-	if err != nil {
-		t.Fatal(err)
+// outcomeOf an Op.
+type outcomeOf struct {
+	op  int
+	err error
+}
+
+// Drawn boxes and calls; what came of them is counted, so that all that may be has been, and nothing else.
+func TestB4AsOneTree(t *testing.T) {
+	count := map[outcomeOf]int{}
+	drawnBoxes(t, 10, 1200, 60, drawnConfig, func(d *die, c api.Config, lowers []api.Node, b *box.Box) func() {
+		w := newWorld(c, lowers)
+		return func() {
+			x := drawnCall(d, b)
+			count[outcomeOf{x.Op, agree(t, b, w, x)}]++
+		}
+	})
+	for op, l := range possible() {
+		for _, e := range append(l, nil) {
+			if count[outcomeOf{op, e}] < 3 {
+				t.Errorf("Op %d, %v: too few", op, e)
+			}
+			delete(count, outcomeOf{op, e})
+		}
 	}
-	return x
+	for o, n := range count {
+		if _, is := possible()[o.op]; is || o.err != api.ErrShape {
+			t.Errorf("Op %d, %v: %d times", o.op, o.err, n)
+		}
+	}
+}
+
+// W3: ErrQuota is told just if with more quota it would be too much; all else is as with more quota.
+func TestW3JustTooMuch(t *testing.T) {
+	refused := 0
+	scant := func(d *die) api.Config {
+		c := drawnConfig(d)
+		c.Quota = 1 + d.n(5)
+		return c
+	}
+	drawnBoxes(t, 11, 400, 60, scant, func(d *die, c api.Config, lowers []api.Node, b *box.Box) func() {
+		more := c
+		more.Quota = api.MaxQuota
+		return func() {
+			before := b.Bytes()
+			twin, err := box.Load(more, lowers, before)
+			if err != nil {
+				t.Fatal(err)
+			}
+			x := drawnCall(d, b)
+			got, err := b.Do(x)
+			want, free := twin.Do(x)
+			size := tree.Size(twin.Upper())
+			if free == nil && size > c.Quota*api.Block {
+				refused++
+				if err != api.ErrQuota || !sameTold(got, api.Told{}) || b.Bytes() != before {
+					t.Fatalf("%q: %+v: %v, but %d bytes", before, x, err, size)
+				}
+			} else if err != free || !sameTold(got, want) || b.Bytes() != twin.Bytes() {
+				t.Fatalf("%q: %+v: %v, but %v with more quota", before, x, err, free)
+			}
+		}
+	})
+	if refused < 300 {
+		t.Errorf("%d were refused", refused)
+	}
 }
 
 // possible errors of each Op.
@@ -189,58 +221,46 @@ func possible() map[int][]error {
 	}
 }
 
-// W2: whatever a box does, a White stands just where something would be seen else.
-func TestW2Whites(t *testing.T) {
-	d := die(22)
+// W2: whatever a box does, its upper is owned by ids that the maps have, and a White stands just where something would be seen else.
+func TestW2ItsOwn(t *testing.T) {
 	whites := 0
-	for range 300 {
-		lowers := drawnLowers(&d)
-		b, err := box.New(config(admin(), 64), lowers)
-		if err != nil {
-			t.Fatal(err)
-		}
-		w := newWorld(config(admin(), 64), lowers)
-		for range 80 {
-			c := drawnCall(&d, b)
-			c.Op = of(&d, api.CallRemove, api.CallRemove, api.CallRemove, api.CallMove, api.CallMove, api.CallMake, api.CallPut)
-			_ = agree(t, b, w, c)
-			layers := append([]api.Node{b.Upper()}, lowers...)
-			each(layers[0], nil, func(names []string, n api.Node) {
-				_, _, seen := merge.Look(layers, names)
+	all := func(d *die) api.Config { return config(of(d, admin(), admin(), who(1, 1, 0, 2)), 64) }
+	drawnBoxes(t, 22, 500, 80, all, func(d *die, c api.Config, lowers []api.Node, b *box.Box) func() {
+		return func() {
+			x := drawnCall(d, b)
+			if d.n(2) == 0 {
+				x.Op = of(d, api.CallRemove, api.CallMove)
+			}
+			_, _ = b.Do(x)
+			kept(t, scene{b, lowers}, fmt.Sprintf("%+v", x))
+			each(b.Upper(), nil, func(_ []string, n api.Node) {
 				if n.Kind == api.White {
 					whites++
 				}
-				if (n.Kind == api.White) != !seen || n.Kind == api.White && !merge.Below(layers, names) {
-					t.Fatalf("%+v: %q: %v", c, names, n)
-				}
 			})
 		}
-	}
-	if whites < 1000 {
+	})
+	if whites < 10000 {
 		t.Errorf("%d Whites", whites)
 	}
 }
 
 // What a box answers hangs on its config, its lowers and its calls alone: also if it was loaded in between.
 func TestZ2TheSameAgain(t *testing.T) {
-	d := die(33)
-	for range 200 {
-		c, lowers := drawnConfig(&d), drawnLowers(&d)
-		a, err := box.New(c, lowers)
-		if err != nil {
-			t.Fatal(err)
-		}
+	drawnBoxes(t, 33, 200, 30, drawnConfig, func(d *die, c api.Config, lowers []api.Node, a *box.Box) func() {
 		b := a.Copy()
-		for range 30 {
-			x := drawnCall(&d, a)
-			if b, err = box.Load(c, lowers, b.Bytes()); err != nil {
+		return func() {
+			x := drawnCall(d, a)
+			loaded, err := box.Load(c, lowers, b.Bytes())
+			if err != nil {
 				t.Fatal(err)
 			}
+			b = loaded
 			one, err1 := a.Do(x)
 			two, err2 := b.Do(x)
 			if err1 != err2 || !sameTold(one, two) || a.Bytes() != b.Bytes() {
 				t.Fatalf("%+v: %v, %v and %v, %v", x, one, err1, two, err2)
 			}
 		}
-	}
+	})
 }
