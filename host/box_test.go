@@ -49,13 +49,13 @@ func TestH3AddBox(t *testing.T) {
 		done(t, err)
 		addBox(t, h, c, id)
 		left -= 2 * (id + 2)
-		for _, x := range []*host.Host{h, open(t, d)} {
+		for _, x := range []*host.Host{h, peek(t, d)} {
 			is(t, "new", x, id, b)
 			stands(t, "a box more", x, []int{0, 1, 2}, []int{0, 1, 2, 3, 4}[:id+1], left)
 		}
 	}
 	for id, want := range map[int]string{1: "one", 2: "two", 3: "one", 4: "zero"} {
-		if got := read(t, open(t, d), id, "/a"); got != want {
+		if got := read(t, peek(t, d), id, "/a"); got != want {
 			t.Errorf("box %d: %q, not %q", id, got, want)
 		}
 	}
@@ -115,7 +115,7 @@ func TestH3NoRoom(t *testing.T) {
 			if short == 0 {
 				addBox(t, h, config(quota), 1)
 				stands(t, "just enough", h, nil, []int{0, 1}, 0)
-				stands(t, "just enough, and opened", open(t, d), nil, []int{0, 1}, 0)
+				stands(t, "just enough, and opened", peek(t, d), nil, []int{0, 1}, 0)
 				continue
 			}
 			unchanged(t, "no room", d, func() {
@@ -149,7 +149,7 @@ func TestH3LowestNumber(t *testing.T) {
 			}
 		}
 		left := 30 + 6*len(x.drop)
-		if h.Left() != left || open(t, d).Left() != left {
+		if h.Left() != left || peek(t, d).Left() != left {
 			t.Errorf("behind %v: %d left", x.drop, h.Left())
 		}
 		for i, id := range x.then {
@@ -158,7 +158,7 @@ func TestH3LowestNumber(t *testing.T) {
 			}
 			addBox(t, h, config(3), id)
 		}
-		for _, h := range []*host.Host{h, open(t, d)} {
+		for _, h := range []*host.Host{h, peek(t, d)} {
 			stands(t, "all again", h, nil, []int{0, 1, 2, 3, 4}, 30-2*len(x.then))
 			for id := range 5 {
 				want := []string{"a"}
@@ -283,7 +283,7 @@ func TestH3NoBox(t *testing.T) {
 	stands(t, "no power", h, []int{0}, []int{1}, 55)
 }
 
-// What a call answers is what chapter 10 has; one with an error, and one that asks alone, writes nothing.
+// What a call answers, and does, is what chapter 10 has.
 func TestH3Do(t *testing.T) {
 	d, h := start(t, 60)
 	low := dir("a", file("low"), "d", dir("e", file("")))
@@ -293,44 +293,37 @@ func TestH3Do(t *testing.T) {
 	addBox(t, h, c, 0)
 	b, err := box.New(c, []api.Node{low})
 	done(t, err)
-	for i, x := range []struct {
-		c      api.Call
-		writes bool
-	}{
-		{api.Call{Op: api.CallStat, Path: "/a"}, false},
-		{putting("/b", "new"), true},
-		{api.Call{Op: api.CallList, Path: "/"}, false},
-		{api.Call{Op: api.CallRead, Path: "/b"}, false},
-		{api.Call{Op: api.CallMake, Path: "/d/f", A: 448}, true},
-		{api.Call{Op: api.CallMake, Path: "/d/f", A: 448}, false},
-		{api.Call{Op: api.CallSet, Path: "/a", Name: "u.x", Data: "v"}, true},
-		{api.Call{Op: api.CallGet, Path: "/a", Name: "u.x"}, false},
-		{api.Call{Op: api.CallDrop, Path: "/a", Name: "u.x"}, true},
-		{api.Call{Op: api.CallMode, Path: "/a", A: 511}, true},
-		{api.Call{Op: api.CallOwn, Path: "/a", A: 2, B: -1}, true},
-		{api.Call{Op: api.CallOwn, Path: "/a", A: -1, B: -1}, false},
-		{api.Call{Op: api.CallMove, Path: "/a", Other: "/c"}, true},
-		{api.Call{Op: api.CallMove, Path: "/c", Other: "/c"}, false},
-		{api.Call{Op: api.CallRemove, Path: "/b"}, true},
-		{api.Call{Op: api.CallRemove, Path: "/b"}, false},
-		{api.Call{Op: api.CallCharge}, false},
-		{putting("/big", strings.Repeat("x", 200)), false},
-		{api.Call{Op: 0}, false}, {api.Call{Op: 15}, false},
-		{api.Call{Op: api.CallBe, A: 4, B: 3}, true},
-		{api.Call{Op: api.CallBe, A: 0, B: 0}, false},
-		{api.Call{Op: api.CallRemove, Path: "/c"}, false},
+	for i, x := range []api.Call{
+		{Op: api.CallStat, Path: "/a"},
+		putting("/b", "new"),
+		{Op: api.CallList, Path: "/"},
+		{Op: api.CallRead, Path: "/b"},
+		{Op: api.CallMake, Path: "/d/f", A: 448},
+		{Op: api.CallMake, Path: "/d/f", A: 448},
+		{Op: api.CallSet, Path: "/a", Name: "u.x", Data: "v"},
+		{Op: api.CallGet, Path: "/a", Name: "u.x"},
+		{Op: api.CallDrop, Path: "/a", Name: "u.x"},
+		{Op: api.CallMode, Path: "/a", A: 511},
+		{Op: api.CallOwn, Path: "/a", A: 2, B: -1},
+		{Op: api.CallOwn, Path: "/a", A: -1, B: -1},
+		{Op: api.CallMove, Path: "/a", Other: "/c"},
+		{Op: api.CallMove, Path: "/c", Other: "/c"},
+		{Op: api.CallRemove, Path: "/b"},
+		{Op: api.CallRemove, Path: "/b"},
+		{Op: api.CallCharge},
+		putting("/big", strings.Repeat("x", 200)),
+		{Op: 0}, {Op: 15},
+		{Op: api.CallBe, A: 4, B: 3},
+		{Op: api.CallBe, A: 0, B: 0},
+		{Op: api.CallRemove, Path: "/c"},
 	} {
-		before, written := d.Bytes(), d.Written()
-		told, err := h.Do(0, x.c)
-		want, wanted := b.Do(x.c)
+		told, err := h.Do(0, x)
+		want, wanted := b.Do(x)
 		if err != wanted || !sameTold(told, want) {
 			t.Errorf("call %d: %v, %v, not %v, %v", i, told, err, want, wanted)
 		}
-		if wrote := d.Written() > written; wrote != x.writes || !wrote && d.Bytes() != before {
-			t.Errorf("call %d: %d bytes were written", i, d.Written()-written)
-		}
 		is(t, "behind a call", h, 0, b)
-		is(t, "behind a call, and opened", open(t, d), 0, b)
+		is(t, "behind a call, and opened", peek(t, d), 0, b)
 		stands(t, "behind a call", h, []int{0}, []int{0}, 53)
 	}
 }

@@ -35,7 +35,7 @@ func TestH1Format(t *testing.T) {
 			t.Fatalf("%d blocks: %v, %v", blocks, h, err)
 		}
 		stands(t, "formatted", h, nil, nil, blocks-200)
-		stands(t, "opened", open(t, d), nil, nil, blocks-200)
+		stands(t, "opened", peek(t, d), nil, nil, blocks-200)
 		for id := range api.MaxBoxes {
 			for call, err := range map[string]error{"DropLower": h.DropLower(id), "DropBox": h.DropBox(id)} {
 				if err != api.ErrNone {
@@ -84,7 +84,7 @@ func TestH1Off(t *testing.T) {
 		nothing(t, "Format of a host", h, err, api.ErrOff)
 	})
 	d.On()
-	stands(t, "behind On", open(t, d), nil, nil, 50)
+	stands(t, "behind On", peek(t, d), nil, nil, 50)
 }
 
 // scribbled: disks that were never formatted, but on which something stands.
@@ -128,7 +128,7 @@ func TestH1FormatOfAnything(t *testing.T) {
 		}
 		room := d.Blocks() - 200
 		stands(t, "formatted", h, nil, nil, room)
-		stands(t, "opened", open(t, d), nil, nil, room)
+		stands(t, "opened", peek(t, d), nil, nil, room)
 		if room > 50 {
 			addLower(t, h, dir("a", file("x")), 0)
 			addBox(t, h, config(9, 0), 0)
@@ -156,14 +156,14 @@ func TestH1FormatAgain(t *testing.T) {
 				t.Fatal(err)
 			}
 			stands(t, "formatted again", h, nil, nil, 100)
-			stands(t, "formatted again, and opened", open(t, d), nil, nil, 100)
+			stands(t, "formatted again, and opened", peek(t, d), nil, nil, 100)
 		}
 		h = open(t, d)
 		addBox(t, h, config(1), 0)
 		if upper, err := h.Upper(0); err != nil || len(upper.Kids) > 0 {
 			t.Errorf("%v, %v", upper, err)
 		}
-		stands(t, "a box of the new host", open(t, d), nil, []int{0}, 96)
+		stands(t, "a box of the new host", peek(t, d), nil, []int{0}, 96)
 	}
 }
 
@@ -176,7 +176,7 @@ func TestH1Open(t *testing.T) {
 			if a, b := seen(h), seen(open(t, d)); a != b {
 				t.Errorf("it finds %s, not %s", b, a)
 			}
-			_ = answers(open(t, d.Copy()), 0)
+			_ = answers(peek(t, d), 0)
 		})
 	}
 	check()
@@ -201,7 +201,7 @@ func TestH1Open(t *testing.T) {
 	check()
 	done(t, h.DropLower(1))
 	check()
-	stands(t, "at the end", open(t, d), []int{0, 2}, []int{1}, 200-130-1-10)
+	stands(t, "at the end", peek(t, d), []int{0, 2}, []int{1}, 200-130-1-10)
 }
 
 // The disk is kept: the host's calls write it, and one that is opened from it goes on there.
@@ -209,11 +209,11 @@ func TestH1DiskIsKept(t *testing.T) {
 	d, h := start(t, 50)
 	c := d.Copy()
 	addBox(t, h, config(2), 0)
-	stands(t, "the disk", open(t, d), nil, []int{0}, 44)
+	stands(t, "the disk", peek(t, d), nil, []int{0}, 44)
 	stands(t, "a copy of it", open(t, c), nil, nil, 50)
 	h = open(t, d)
 	put(t, h, 0, "/a", "x")
-	if got := read(t, open(t, d), 0, "/a"); got != "x" {
+	if got := read(t, peek(t, d), 0, "/a"); got != "x" {
 		t.Errorf("%q", got)
 	}
 }

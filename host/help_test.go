@@ -47,6 +47,12 @@ func open(t *testing.T, d *disk.Disk) *host.Host {
 	return h
 }
 
+// peek: the host that is found on a disk, on a copy of it, so that it goes on apart.
+func peek(t *testing.T, d *disk.Disk) *host.Host {
+	t.Helper()
+	return open(t, d.Copy())
+}
+
 // darken a disk: power fails, in no call of a host.
 func darken(t *testing.T, d *disk.Disk) {
 	t.Helper()
@@ -185,7 +191,7 @@ func seen(h *host.Host) string {
 // shown: what is seen of a disk's host, and what is to be found out of configs: which ids maps have, how much goes into a quota, which lowers are held. The disk stays as it is.
 func shown(t *testing.T, d *disk.Disk) string {
 	t.Helper()
-	h := open(t, d.Copy())
+	h := peek(t, d)
 	s := seen(h)
 	for _, id := range h.Boxes() {
 		for _, x := range []int{0, 2, 3, 7, 8, 9, 10, 20, 22} {

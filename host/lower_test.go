@@ -54,7 +54,7 @@ func TestH2AddLower(t *testing.T) {
 	for id, n := range all {
 		addLower(t, h, n, id)
 		left -= (tree.Size(n) + 63) / 64
-		for _, x := range []*host.Host{h, open(t, d)} {
+		for _, x := range []*host.Host{h, peek(t, d)} {
 			stands(t, "a lower more", x, []int{0, 1, 2, 3, 4}[:id+1], nil, left)
 			for i := range id + 1 {
 				hasLower(t, x, i, all[i])
@@ -69,10 +69,10 @@ func TestH2Takes(t *testing.T) {
 		d, h := start(t, 100)
 		addLower(t, h, sized(t, bytes), 0)
 		stands(t, "taken", h, []int{0}, nil, 100-blocks)
-		stands(t, "taken, and opened", open(t, d), []int{0}, nil, 100-blocks)
+		stands(t, "taken, and opened", peek(t, d), []int{0}, nil, 100-blocks)
 		done(t, h.DropLower(0))
 		stands(t, "given back", h, nil, nil, 100)
-		stands(t, "given back, and opened", open(t, d), nil, nil, 100)
+		stands(t, "given back, and opened", peek(t, d), nil, nil, 100)
 	}
 }
 
@@ -99,7 +99,7 @@ func TestH2NoRoom(t *testing.T) {
 			}
 			if left > 0 {
 				addLower(t, h, whole(t, left), min(ahead, 1))
-				if h.Left() != 0 || open(t, d).Left() != 0 {
+				if h.Left() != 0 || peek(t, d).Left() != 0 {
 					t.Errorf("%d left", h.Left())
 				}
 				if _, err := h.AddLower(dir()); err != api.ErrNoRoom {
@@ -132,7 +132,7 @@ func TestH2LowestNumber(t *testing.T) {
 			}
 			addLower(t, h, dir("n", file(strings.Repeat("n", id))), id)
 		}
-		for _, h := range []*host.Host{h, open(t, d)} {
+		for _, h := range []*host.Host{h, peek(t, d)} {
 			stands(t, "all again", h, []int{0, 1, 2, 3, 4}, nil, 35)
 			for id := range 5 {
 				want := dir("a", file(strings.Repeat("o", id)))
@@ -182,7 +182,7 @@ func TestH2AddLowerErrors(t *testing.T) {
 		refusedLower(t, x.what, h, x.n, x.want)
 		refusedLower(t, "all numbers", h, dir(), api.ErrMany)
 		refusedLower(t, "all numbers, more than is left", h, whole(t, 31), api.ErrMany)
-		stands(t, x.what, open(t, d), []int{0, 1, 2, 3, 4}, nil, 25)
+		stands(t, x.what, peek(t, d), []int{0, 1, 2, 3, 4}, nil, 25)
 		_, h = start(t, 0)
 		refusedLower(t, x.what, h, x.n, x.want)
 		d, h = start(t, 30)
@@ -222,7 +222,7 @@ func TestH2Seal(t *testing.T) {
 	want := dir("a", file("low"), "b", dir("c", file("up")), "n", file("new"))
 	want.User, want.Kids[0].Node.User = 0, 4
 	want.Kids[2].Node.User, want.Kids[2].Node.Group = 9, 7
-	for _, h := range []*host.Host{h, open(t, d)} {
+	for _, h := range []*host.Host{h, peek(t, d)} {
 		if hasLower(t, h, 1, want); !sameNode(flat, want) {
 			t.Errorf("flat: %v", flat)
 		}
@@ -295,7 +295,7 @@ func TestH2DropLower(t *testing.T) {
 		if err := h.DropLower(id); err != want {
 			t.Errorf("DropLower(%d): %v, not %v", id, err, want)
 		}
-		if err := open(t, d.Copy()).DropLower(id); want != nil && err != want {
+		if err := peek(t, d).DropLower(id); want != nil && err != want {
 			t.Errorf("opened: DropLower(%d): %v, not %v", id, err, want)
 		}
 		if want != nil && seen(h) != before {
@@ -319,7 +319,7 @@ func TestH2DropLower(t *testing.T) {
 	drops(0, nil)
 	drops(0, api.ErrNone)
 	stands(t, "one is left", h, []int{3}, nil, 99)
-	stands(t, "one is left, and opened", open(t, d), []int{3}, nil, 99)
+	stands(t, "one is left, and opened", peek(t, d), []int{3}, nil, 99)
 	hasLower(t, h, 3, dir("a", file("xxx")))
 	for _, id := range append([]int{0, 1, 2, 4}, strays...) {
 		if n, err := h.Lower(id); err != api.ErrNone || !sameNode(n, api.Node{}) {

